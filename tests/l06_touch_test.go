@@ -56,6 +56,11 @@ func plainTouches(list []impl.Event, j int64) []impl.Touch {
 	if len(list) > maxTrace || j < 0 || j >= byPlainScene(list).size {
 		return nil
 	}
+	return touchesOfDone(list, j)
+}
+
+// touchesOfDone are those of an event that can be done.
+func touchesOfDone(list []impl.Event, j int64) []impl.Touch {
 	touches := touchesByKind()[list[j].Kind]
 	for i, touch := range touches {
 		touches[i].Obj = list[j].Obj
