@@ -63,6 +63,16 @@ func joinOf(clocks ...[]int64) []int64 {
 	return all
 }
 
+// withAt answers a clock of its own, with n, which is not 0, in that place.
+func withAt(c []int64, g int64, n int64) []int64 {
+	next := joinOf(c)
+	for int64(len(next)) <= g {
+		next = append(next, 0)
+	}
+	next[g] = n
+	return next
+}
+
 func Under(a []int64, b []int64) bool {
 	if !ClockOk(a) || !ClockOk(b) {
 		return false
@@ -79,15 +89,10 @@ func Ticked(c []int64, g int64) ([]int64, bool) {
 	if !ClockOk(c) {
 		return []int64{}, false
 	}
-	next := joinOf(c)
 	if !gorInRange(g) || TickOf(c, g) == MaxTick {
-		return next, false
+		return joinOf(c), false
 	}
-	for int64(len(next)) <= g {
-		next = append(next, 0)
-	}
-	next[g]++
-	return next, true
+	return withAt(c, g, TickOf(c, g)+1), true
 }
 
 func PackEpoch(g int64, n int64) (uint64, bool) {
